@@ -524,9 +524,9 @@ var binary = map[string]func(a, b vector) []vector{
 	"Uint":    func(a, b vector) []vector { bv.Uint(a); bv.Int(a); return nil },
 }
 
-// framed returns a copy of a with further elements before it and beyond its length, and the whole of it.
-func framed(a vector, other bool) (part, whole vector) {
-	whole = slices.Concat(vector{other, other}, a, vector{other, other, other})
+// framed returns a copy of a with true elements before it and beyond its length, and the whole of it.
+func framed(a vector) (part, whole vector) {
+	whole = slices.Concat(vector{true, true}, a, vector{true, true, true})
 	return whole[2 : 2+len(a)], whole
 }
 
@@ -535,8 +535,8 @@ func TestArguments(t *testing.T) {
 	for name, f := range binary {
 		for _, a := range slices.Concat(every(3), wide()[40:60]) {
 			for _, b := range every(3) {
-				x, wholeX := framed(a, true)
-				y, wholeY := framed(b, true)
+				x, wholeX := framed(a)
+				y, wholeY := framed(b)
 				beforeX, beforeY := slices.Clone(wholeX), slices.Clone(wholeY)
 				results := f(x, y)
 				is(t, name+" changed its first argument", wholeX, beforeX, a, b)
